@@ -1,0 +1,156 @@
+package tests
+
+import (
+	"math"
+	"testing"
+
+	"loop.example/g01403/impl"
+)
+
+const (
+	zeroBits        = 0x00000000
+	minusZeroBits   = 0x80000000
+	leastBits       = 0x00000001
+	lastSubnormal   = 0x007fffff
+	firstNormal     = 0x00800000
+	oneBits         = 0x3f800000
+	greatestBits    = 0x7f7fffff
+	infinityBits    = 0x7f800000
+	minusInfinity   = 0xff800000
+	notANumberBits  = 0x7fc00000
+	otherNotANumber = 0xffc00001
+	quietLess       = 0x7f800001
+)
+
+// strangeBits are those of numbers at which functions change what they do.
+func strangeBits() []uint32 {
+	return []uint32{
+		zeroBits, minusZeroBits, leastBits, 0x80000001, lastSubnormal, 0x807fffff,
+		firstNormal, 0x80800000, oneBits, 0xbf800000, 0x3e800000, 0xbe800000, 0x3f000000, 0xbf000000,
+		0x3f400000, 0x3fc00000, 0x43480000, 0x43480001, 0xc3480000, 0xc3480001, 0x59800000, 0xd9800000,
+		greatestBits, 0xff7fffff, infinityBits, minusInfinity, notANumberBits, otherNotANumber, quietLess,
+	}
+}
+
+func num(bits uint32) float32 { return math.Float32frombits(bits) }
+
+func cplx(a, b uint32) complex64 { return complex(num(a), num(b)) }
+
+// bitsOf is told without the package, with one kind of bits for all not-a-numbers.
+func bitsOf(x float32) uint32 {
+	if x != x {
+		return notANumberBits
+	}
+	return math.Float32bits(x)
+}
+
+func wantBits(t *testing.T, what string, got float32, want uint32) {
+	t.Helper()
+	if bitsOf(got) != want {
+		t.Errorf("%s: got %08x (%v), want %08x (%v)", what, bitsOf(got), got, want, num(want))
+	}
+}
+
+func wantBothBits(t *testing.T, what string, got complex64, a, b uint32) {
+	t.Helper()
+	if bitsOf(real(got)) != a || bitsOf(imag(got)) != b {
+		t.Errorf("%s: got %08x %08x %v, want %08x %08x", what, bitsOf(real(got)), bitsOf(imag(got)), got, a, b)
+	}
+}
+
+// wantSum checks a result that succeeds.
+func wantSum(t *testing.T, what string, got float32, ok bool, want uint32) {
+	t.Helper()
+	if !ok {
+		t.Errorf("%s: fails", what)
+	}
+	wantBits(t, what, got, want)
+}
+
+// wantBothSum checks a complex result that succeeds.
+func wantBothSum(t *testing.T, what string, got complex64, ok bool, a, b uint32) {
+	t.Helper()
+	if !ok {
+		t.Errorf("%s: fails", what)
+	}
+	wantBothBits(t, what, got, a, b)
+}
+
+// wantFailure checks that a number is +0 beside a false.
+func wantFailure(t *testing.T, what string, got float32, ok bool) {
+	t.Helper()
+	if ok {
+		t.Errorf("%s: succeeds with %v", what, got)
+	}
+	wantBits(t, what, got, zeroBits)
+}
+
+// wantBothFailure checks that a complex number is +0 + 0 i beside a false.
+func wantBothFailure(t *testing.T, what string, got complex64, ok bool) {
+	t.Helper()
+	if ok {
+		t.Errorf("%s: succeeds with %v", what, got)
+	}
+	wantBothBits(t, what, got, zeroBits, zeroBits)
+}
+
+func wantBool(t *testing.T, what string, got, want bool) {
+	t.Helper()
+	if got != want {
+		t.Errorf("%s: got %v, want %v", what, got, want)
+	}
+}
+
+func wantText(t *testing.T, what, got string, ok bool, want string) {
+	t.Helper()
+	if !ok || got != want {
+		t.Errorf("%s: got %q %v, want %q", what, got, ok, want)
+	}
+}
+
+func repeatNumber(x float32, n int) []float32 {
+	list := make([]float32, n)
+	for i := range list {
+		list[i] = x
+	}
+	return list
+}
+
+func repeatComplex(x complex64, n int) []complex64 {
+	list := make([]complex64, n)
+	for i := range list {
+		list[i] = x
+	}
+	return list
+}
+
+// sameNumbers holds lists against each other, bit by bit.
+func sameNumbers(a, b []float32) bool {
+	if len(a) != len(b) {
+		return false
+	}
+	for i := range a {
+		if bitsOf(a[i]) != bitsOf(b[i]) {
+			return false
+		}
+	}
+	return true
+}
+
+func sameComplexes(a, b []complex64) bool {
+	if len(a) != len(b) {
+		return false
+	}
+	for i := range a {
+		if bitsOf(real(a[i])) != bitsOf(real(b[i])) || bitsOf(imag(a[i])) != bitsOf(imag(b[i])) {
+			return false
+		}
+	}
+	return true
+}
+
+func TestConstantsOfChapter1(t *testing.T) {
+	if impl.MaxNumbers != 256 || impl.MaxValue != 1000000000000000 || impl.MaxItems != 64 || impl.CheckSize != 65003 {
+		t.Error("a limit of chapter 1 is not as the document has it")
+	}
+}
