@@ -1,7 +1,10 @@
 package tests
 
 import (
+	"fmt"
 	"math"
+	"reflect"
+	"strings"
 	"testing"
 
 	"loop.example/g01403/impl"
@@ -149,8 +152,111 @@ func sameComplexes(a, b []complex64) bool {
 	return true
 }
 
+// say writes results down so that same ones are equal texts: the bits of numbers, with one kind of not-a-numbers.
+func say(results ...any) string {
+	var b strings.Builder
+	for _, r := range results {
+		switch x := r.(type) {
+		case float32:
+			fmt.Fprintf(&b, "%08x ", bitsOf(x))
+		case complex64:
+			fmt.Fprintf(&b, "%08x+%08x ", bitsOf(real(x)), bitsOf(imag(x)))
+		case []float32:
+			for _, y := range x {
+				fmt.Fprintf(&b, "%08x,", bitsOf(y))
+			}
+		case []complex64:
+			for _, y := range x {
+				fmt.Fprintf(&b, "%08x+%08x,", bitsOf(real(y)), bitsOf(imag(y)))
+			}
+		case impl.Steps:
+			b.WriteString(say(x.Edges) + "|" + say(x.Heights))
+		default:
+			fmt.Fprintf(&b, "%v ", x)
+		}
+	}
+	return b.String()
+}
+
+func twice(t *testing.T, what string, call func() string) {
+	t.Helper()
+	if first, second := call(), call(); first != second {
+		t.Errorf("%s: %s, and then %s", what, first, second)
+	}
+}
+
+// withRoom returns a copy of a list whose memory goes on behind its end, and all of this memory.
+func withRoom[T any](list []T, behind T) ([]T, []T) {
+	all := append(append([]T{}, list...), behind, behind, behind)
+	return all[:len(list)], all
+}
+
+// told is what functions say, beside what they should say.
+type told struct {
+	what, got, want string
+}
+
+func wantTold(t *testing.T, list []told) {
+	t.Helper()
+	for _, x := range list {
+		if x.got != x.want {
+			t.Errorf("%s: got %s, want %s", x.what, x.got, x.want)
+		}
+	}
+}
+
+// failing is what fails says about a call.
+type failing struct {
+	what, said string
+}
+
+func wantFailing(t *testing.T, list []failing) {
+	t.Helper()
+	for _, x := range list {
+		if x.said != "" {
+			t.Errorf("%s: does not fail with zero values, but gives %s", x.what, x.said)
+		}
+	}
+}
+
+// fails returns nothing if results are zero values beside a false, and what they are otherwise.
+func fails(results ...any) string {
+	last := len(results) - 1
+	for _, r := range results[:last] {
+		if !isZeroResult(reflect.ValueOf(r)) {
+			return say(results...)
+		}
+	}
+	if results[last] != false {
+		return say(results...)
+	}
+	return ""
+}
+
+// isZeroResult takes empty lists for nil ones, and -0 for no zero value.
+func isZeroResult(v reflect.Value) bool {
+	switch v.Kind() {
+	case reflect.Slice:
+		return v.Len() == 0
+	case reflect.Struct:
+		for i := range v.NumField() {
+			if !isZeroResult(v.Field(i)) {
+				return false
+			}
+		}
+		return true
+	}
+	return v.IsZero()
+}
+
 func TestConstantsOfChapter1(t *testing.T) {
 	if impl.MaxNumbers != 256 || impl.MaxValue != 1000000000000000 || impl.MaxItems != 64 || impl.CheckSize != 65003 {
 		t.Error("a limit of chapter 1 is not as the document has it")
+	}
+}
+
+func TestConstantsOfChapter2(t *testing.T) {
+	if impl.MaxPieces != 12 || impl.MaxGrid != 48 || impl.MaxWorkers != 8 {
+		t.Error("a limit of chapter 2 is not as the document has it")
 	}
 }

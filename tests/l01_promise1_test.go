@@ -10,37 +10,6 @@ import (
 	"loop.example/g01403/impl"
 )
 
-// say writes results down so that same ones are equal texts: the bits of numbers, with one kind of not-a-numbers.
-func say(results ...any) string {
-	var b strings.Builder
-	for _, r := range results {
-		switch x := r.(type) {
-		case float32:
-			fmt.Fprintf(&b, "%08x ", bitsOf(x))
-		case complex64:
-			fmt.Fprintf(&b, "%08x+%08x ", bitsOf(real(x)), bitsOf(imag(x)))
-		case []float32:
-			for _, y := range x {
-				fmt.Fprintf(&b, "%08x,", bitsOf(y))
-			}
-		case []complex64:
-			for _, y := range x {
-				fmt.Fprintf(&b, "%08x+%08x,", bitsOf(real(y)), bitsOf(imag(y)))
-			}
-		default:
-			fmt.Fprintf(&b, "%v ", x)
-		}
-	}
-	return b.String()
-}
-
-func twice(t *testing.T, what string, call func() string) {
-	t.Helper()
-	if first, second := call(), call(); first != second {
-		t.Errorf("%s: %s, and then %s", what, first, second)
-	}
-}
-
 // TestNumbersReturn calls every function of one or two numbers with all kinds of them, twice.
 func TestNumbersReturn(t *testing.T) {
 	for _, i := range strangeBits() {
@@ -91,12 +60,6 @@ func TestIntegersAndTextsReturn(t *testing.T) {
 			})
 		}
 	}
-}
-
-// withRoom returns a copy of a list whose memory goes on behind its end, and all of this memory.
-func withRoom[T any](list []T, behind T) ([]T, []T) {
-	all := append(append([]T{}, list...), behind, behind, behind)
-	return all[:len(list)], all
 }
 
 // TestListsAreNotModified calls every function of lists, and looks at their memory, and at what comes behind their ends.

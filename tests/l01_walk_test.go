@@ -12,10 +12,14 @@ import (
 
 const walkSteps = 50000
 
-// walk returns the folded results; tell gets four numbers of 32 bits at a time.
 func walk(start uint64, tell func(r [4]uint32) []int64) uint64 {
+	return walkFor(walkSteps, start, tell)
+}
+
+// walkFor returns the folded results; tell gets four numbers of 32 bits at a time.
+func walkFor(steps int, start uint64, tell func(r [4]uint32) []int64) uint64 {
 	state, folded := start, uint64(0)
-	for range walkSteps {
+	for range steps {
 		var r [4]uint32
 		for i := range r {
 			state = state*6364136223846793005 + 1442695040888963407
