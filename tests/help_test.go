@@ -260,3 +260,9 @@ func TestConstantsOfChapter2(t *testing.T) {
 		t.Error("a limit of chapter 2 is not as the document has it")
 	}
 }
+
+func TestConstantsOfChapter3(t *testing.T) {
+	if impl.MaxTurn != 6 || impl.MaxBoth != 12 || impl.MaxRotor != 40 || impl.MaxShell != 2 {
+		t.Error("a limit of chapter 3 is not as the document has it")
+	}
+}

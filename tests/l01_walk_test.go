@@ -32,6 +32,23 @@ func walkFor(steps int, start uint64, tell func(r [4]uint32) []int64) uint64 {
 	return folded
 }
 
+// walkTo is a walk, and where it should lead.
+type walkTo struct {
+	what  string
+	start uint64
+	tell  func(r [4]uint32) []int64
+	want  uint64
+}
+
+func wantWalks(t *testing.T, steps int, walks []walkTo) {
+	t.Helper()
+	for _, w := range walks {
+		if got := walkFor(steps, w.start, w.tell); got != w.want {
+			t.Errorf("%s: the walk leads to %016x, want %016x", w.what, got, w.want)
+		}
+	}
+}
+
 // mild returns a number neither very small nor very great.
 func mild(r uint32) float32 {
 	return num(r&0x807fffff | (107+(r>>23)%32)<<23)
@@ -45,12 +62,7 @@ func bitsOfBoth(x complex64) []int64 {
 
 func TestWalks(t *testing.T) {
 	n := func(x float32) int64 { return int64(bitsOf(x)) }
-	walks := []struct {
-		what  string
-		start uint64
-		tell  func(r [4]uint32) []int64
-		want  uint64
-	}{
+	wantWalks(t, walkSteps, []walkTo{
 		{"SineTurns", 1, func(r [4]uint32) []int64 { return []int64{n(impl.SineTurns(mild(r[0])))} }, 0x302ab9c4036421dc},
 		{"PhasorOf", 2, func(r [4]uint32) []int64 {
 			return bitsOfBoth(impl.PhasorOf(float64(mild(r[0])) * float64(mild(r[1]))))
@@ -87,12 +99,7 @@ func TestWalks(t *testing.T) {
 		{"RootNumber", 11, func(r [4]uint32) []int64 {
 			return []int64{n(impl.RootNumber(mildPositive(r[0]))), n(impl.RootNumber(num(r[1])))}
 		}, 0x7e9241fe2d847701},
-	}
-	for _, w := range walks {
-		if got := walk(w.start, w.tell); got != w.want {
-			t.Errorf("%s: the walk leads to %016x, want %016x", w.what, got, w.want)
-		}
-	}
+	})
 }
 
 // TestMildNumbers keeps the walks' numbers inside the range that their name tells.

@@ -21,6 +21,8 @@ func bitsOfAll(results ...any) []int64 {
 			list = append(list, map[bool]int64{true: 1}[x])
 		case int64:
 			list = append(list, x)
+		case []int64:
+			list = append(list, x...)
 		case float32:
 			list = append(list, int64(bitsOf(x)))
 		case complex64:
@@ -73,20 +75,10 @@ func closedBits(r [4]uint32) []int64 {
 
 // TestWalksOfWells holds folded results against those of another program, as TestWalks does.
 func TestWalksOfWells(t *testing.T) {
-	walks := []struct {
-		what  string
-		start uint64
-		tell  func(r [4]uint32) []int64
-		want  uint64
-	}{
+	wantWalks(t, wellSteps, []walkTo{
 		{"WaveAmounts and StepShares", 21, waveBits, 0xadeb5ba82a30530f},
 		{"CellTurns, IsBand and BandEdges", 22, bandBits, 0x2f8d270faf40cbbe},
 		{"GridRows and what becomes of them", 23, rowBits, 0xe80af60ab1c9bb36},
 		{"BoxLevels, SwingLevels, BendLevels and WellCount", 24, closedBits, 0xe968fd94c48b6529},
-	}
-	for _, w := range walks {
-		if got := walkFor(wellSteps, w.start, w.tell); got != w.want {
-			t.Errorf("%s: the walk leads to %016x, want %016x", w.what, got, w.want)
-		}
-	}
+	})
 }
