@@ -266,3 +266,9 @@ func TestConstantsOfChapter3(t *testing.T) {
 		t.Error("a limit of chapter 3 is not as the document has it")
 	}
 }
+
+func TestConstantsOfChapter4(t *testing.T) {
+	if impl.MaxLevels != 6 || impl.MaxSpins != 32 || impl.MaxTimes != 512 {
+		t.Error("a limit of chapter 4 is not as the document has it")
+	}
+}

@@ -103,7 +103,7 @@ func TestWellsAreNew(t *testing.T) {
 }
 
 // overwrite writes over a list and the memory behind its end.
-func overwrite(list []float32) {
+func overwrite[T float32 | complex64](list []T) {
 	all := list[:cap(list)]
 	for i := range all {
 		all[i] = -99

@@ -31,6 +31,10 @@ func bitsOfAll(results ...any) []int64 {
 			for _, y := range x {
 				list = append(list, int64(bitsOf(y)))
 			}
+		case []complex64:
+			for _, y := range x {
+				list = append(list, bitsOfBoth(y)...)
+			}
 		default:
 			panic(r)
 		}
