@@ -171,11 +171,21 @@ func say(results ...any) string {
 			}
 		case impl.Steps:
 			b.WriteString(say(x.Edges) + "|" + say(x.Heights))
+		case impl.Line:
+			b.WriteString(lineText(x) + " ")
+		case []impl.Line:
+			for _, y := range x {
+				b.WriteString(lineText(y) + ",")
+			}
 		default:
 			fmt.Fprintf(&b, "%v ", x)
 		}
 	}
 	return b.String()
+}
+
+func lineText(l impl.Line) string {
+	return fmt.Sprintf("%08x|%08x|%08x|%d", bitsOf(l.Place), bitsOf(l.Height), bitsOf(l.Width), l.Kind)
 }
 
 func twice(t *testing.T, what string, call func() string) {
@@ -270,5 +280,11 @@ func TestConstantsOfChapter3(t *testing.T) {
 func TestConstantsOfChapter4(t *testing.T) {
 	if impl.MaxLevels != 6 || impl.MaxSpins != 32 || impl.MaxTimes != 512 {
 		t.Error("a limit of chapter 4 is not as the document has it")
+	}
+}
+
+func TestConstantsOfChapter5(t *testing.T) {
+	if impl.MaxLines != 12 || impl.MaxSpectrum != 128 || impl.MaxFit != 6 || impl.MaxEdges != 32 {
+		t.Error("a limit of chapter 5 is not as the document has it")
 	}
 }

@@ -35,9 +35,21 @@ func bitsOfAll(results ...any) []int64 {
 			for _, y := range x {
 				list = append(list, bitsOfBoth(y)...)
 			}
+		case impl.Line:
+			list = append(list, bitsOfLines(x)...)
+		case []impl.Line:
+			list = append(list, bitsOfLines(x...)...)
 		default:
 			panic(r)
 		}
+	}
+	return list
+}
+
+func bitsOfLines(lines ...impl.Line) []int64 {
+	var list []int64
+	for _, l := range lines {
+		list = append(list, int64(bitsOf(l.Place)), int64(bitsOf(l.Height)), int64(bitsOf(l.Width)), l.Kind)
 	}
 	return list
 }
