@@ -201,6 +201,18 @@ func withRoom[T any](list []T, behind T) ([]T, []T) {
 	return all[:len(list)], all
 }
 
+// overwriter returns what writes over results, which must be lists of something, and over the memory behind their ends.
+func overwriter[T any](t *testing.T, with T) func(list []T, ok bool) {
+	return func(list []T, ok bool) {
+		t.Helper()
+		wantBool(t, "a list", ok && len(list) > 0, true)
+		all := list[:cap(list)]
+		for i := range all {
+			all[i] = with
+		}
+	}
+}
+
 // told is what functions say, beside what they should say.
 type told struct {
 	what, got, want string
@@ -286,5 +298,11 @@ func TestConstantsOfChapter4(t *testing.T) {
 func TestConstantsOfChapter5(t *testing.T) {
 	if impl.MaxLines != 12 || impl.MaxSpectrum != 128 || impl.MaxFit != 6 || impl.MaxEdges != 32 {
 		t.Error("a limit of chapter 5 is not as the document has it")
+	}
+}
+
+func TestConstantsOfChapter6(t *testing.T) {
+	if impl.MaxBins != 64 || impl.MaxLamps != 16 || impl.MaxFilms != 8 {
+		t.Error("a limit of chapter 6 is not as the document has it")
 	}
 }

@@ -10,10 +10,13 @@ import (
 )
 
 // wrongLists are no lists of 1 to 128 finite numbers.
-func wrongLists() [][]float32 {
-	lists := [][]float32{nil, {}, repeatNumber(1, 129), repeatNumber(1, 1000)}
+func wrongLists() [][]float32 { return listsRefusedFor(128) }
+
+// listsRefusedFor returns what are no lists of 1 to so many finite numbers.
+func listsRefusedFor(most int) [][]float32 {
+	lists := [][]float32{nil, {}, repeatNumber(1, most+1), repeatNumber(1, 1000)}
 	for _, x := range notFinite() {
-		lists = append(lists, []float32{x}, []float32{x, 1, 2, 1}, []float32{0, 2, x, 0}, []float32{0, 2, 1, x})
+		lists = append(lists, []float32{x}, []float32{x, 1, 2, 1}, []float32{1, 2, x, 1}, []float32{1, 2, 1, x})
 	}
 	return lists
 }

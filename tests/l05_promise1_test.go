@@ -93,20 +93,7 @@ func TestListsOfLinesAreNotModified(t *testing.T) {
 func TestLinesAreNew(t *testing.T) {
 	d := someLined()
 	first := sayLined(d, -2, 0.5, 0.75, 3, 2)
-	lines := func(list []impl.Line, ok bool) {
-		wantBool(t, "a list of lines", ok && len(list) > 0, true)
-		for i := range list[:cap(list)] {
-			list[:cap(list)][i] = line(99, 99, 99, 99)
-		}
-	}
-	numbers := func(list []float32, ok bool) {
-		wantBool(t, "a list", ok && len(list) > 0, true)
-		overwrite(list)
-	}
-	integers := func(list []int64, ok bool) {
-		wantBool(t, "a list of integers", ok && len(list) > 0, true)
-		clear(list[:cap(list)])
-	}
+	lines, numbers, integers := overwriter(t, line(99, 99, 99, 99)), overwriter[float32](t, 99), overwriter[int64](t, 99)
 	lines(impl.ShiftLines(d.lines, 1, 2))
 	lines(impl.ShiftLines(d.lines, 0, 1))
 	lines(impl.FitHeights(d.lines, d.list, -2, 0.5))
