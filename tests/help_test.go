@@ -177,6 +177,13 @@ func say(results ...any) string {
 			for _, y := range x {
 				b.WriteString(lineText(y) + ",")
 			}
+		case impl.Saved:
+			fmt.Fprintf(&b, "%q ", x.Name)
+			b.WriteString(say(x.Lines) + "|" + say(x.List) + "|" + say(x.Phases))
+		case []impl.Saved:
+			for _, y := range x {
+				b.WriteString(say(y) + "; ")
+			}
 		default:
 			fmt.Fprintf(&b, "%v ", x)
 		}
@@ -304,5 +311,11 @@ func TestConstantsOfChapter5(t *testing.T) {
 func TestConstantsOfChapter6(t *testing.T) {
 	if impl.MaxBins != 64 || impl.MaxLamps != 16 || impl.MaxFilms != 8 {
 		t.Error("a limit of chapter 6 is not as the document has it")
+	}
+}
+
+func TestConstantsOfChapter7(t *testing.T) {
+	if impl.MaxLibrary != 8 || impl.MaxShares != 6 || impl.MaxSaved != 8 {
+		t.Error("a limit of chapter 7 is not as the document has it")
 	}
 }

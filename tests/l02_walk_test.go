@@ -21,6 +21,10 @@ func bitsOfAll(results ...any) []int64 {
 			list = append(list, map[bool]int64{true: 1}[x])
 		case int64:
 			list = append(list, x)
+		case string:
+			for i := range len(x) {
+				list = append(list, int64(x[i]))
+			}
 		case []int64:
 			list = append(list, x...)
 		case float32:
