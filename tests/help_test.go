@@ -171,6 +171,12 @@ func say(results ...any) string {
 			}
 		case impl.Steps:
 			b.WriteString(say(x.Edges) + "|" + say(x.Heights))
+		case []string:
+			fmt.Fprintf(&b, "%q ", x)
+		case impl.Pulse:
+			b.WriteString(say(x.Rate, x.Off, x.Turn, x.Time))
+		case impl.Desk:
+			b.WriteString(say(x.Steps) + "|" + say(x.Pulse) + "|" + say(x.Scan) + "; ")
 		case impl.Line:
 			b.WriteString(lineText(x) + " ")
 		case []impl.Line:
@@ -317,5 +323,11 @@ func TestConstantsOfChapter6(t *testing.T) {
 func TestConstantsOfChapter7(t *testing.T) {
 	if impl.MaxLibrary != 8 || impl.MaxShares != 6 || impl.MaxSaved != 8 {
 		t.Error("a limit of chapter 7 is not as the document has it")
+	}
+}
+
+func TestConstantsOfChapter8(t *testing.T) {
+	if impl.MaxScript != 16000 {
+		t.Error("a limit of chapter 8 is not as the document has it")
 	}
 }

@@ -16,8 +16,10 @@ func littleFour(x float32) string {
 }
 
 // checkNumber is told without the package.
-func checkNumber(body string) int {
-	check := 0
+func checkNumber(body string) int { return checkFrom(0, body) }
+
+// checkFrom is the check number that begins with another one.
+func checkFrom(check int, body string) int {
 	for i := range len(body) {
 		check = (977*check + int(body[i]) + 233) % 65003
 	}
